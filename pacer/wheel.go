@@ -65,30 +65,22 @@ func (w *Wheel) Cancel(id int) Errno {
 	return OK
 }
 
-// Advance turns the wheel (P4).
+// Advance turns the wheel and tells what is due (P4).
 func (w *Wheel) Advance(now int) []int {
-	for {
-		level, slot, found := w.firstSlot()
-		if !found || w.startOf(level, slot) > now {
-			break
-		}
-		w.open(level, slot)
-	}
-	// Whatever still waits starts above now, so its level and slot stay the same.
-	w.now = max(w.now, now)
+	w.turn(now)
 	return w.takeOver()
 }
 
 // Next is the least time till which something waits (P4).
 func (w *Wheel) Next() int {
 	if !w.over.Empty() {
-		return leastTime(&w.over)
+		return earliest(&w.over).at
 	}
 	level, slot, found := w.firstSlot()
 	if !found {
 		return -1
 	}
-	return leastTime(&w.slots[level][slot])
+	return earliest(&w.slots[level][slot]).at
 }
 
 // Len is how many wait (P4).
@@ -140,6 +132,19 @@ func (w *Wheel) firstSlot() (level int, slot int, found bool) {
 	return 0, 0, false
 }
 
+// turn makes now the wheel's time, if that is above it; what is due by that is over, but waits on.
+func (w *Wheel) turn(now int) {
+	for {
+		level, slot, found := w.firstSlot()
+		if !found || w.startOf(level, slot) > now {
+			break
+		}
+		w.open(level, slot)
+	}
+	// Whatever still waits starts above now, so its level and slot stay the same.
+	w.now = max(w.now, now)
+}
+
 // open turns the wheel to the start of its first slot. All in it come to lower levels or are over: so turning ends, and the slot is empty.
 func (w *Wheel) open(level int, slot int) {
 	w.now = w.startOf(level, slot)
@@ -166,13 +171,24 @@ func (w *Wheel) takeOver() []int {
 	return ids
 }
 
-// leastTime is the least time of a list that is not empty.
-func leastTime(list *waiters) int {
-	least := -1
+// takeFirst ends the waiting of the one alone that takeOver would tell first, and answers its time too.
+func (w *Wheel) takeFirst() (id int, at int, found bool) {
+	x := earliest(&w.over)
+	if x == nil {
+		return 0, 0, false
+	}
+	w.over.Remove(x)
+	delete(w.byID, x.id)
+	return x.id, x.at, true
+}
+
+// earliest is the first of those with the least time; nil, if the list is empty.
+func earliest(list *waiters) *waiter {
+	var first *waiter
 	for x := range list.All() {
-		if least < 0 || x.at < least {
-			least = x.at
+		if first == nil || x.at < first.at {
+			first = x
 		}
 	}
-	return least
+	return first
 }
