@@ -695,7 +695,7 @@ type both struct {
 	rand  *rand.Rand
 	got   *pacer.Pacer
 	want  *plainPacer
-	watch *watch
+	watch *watch // which want tells
 }
 
 func (b *both) same(call string, got, want any) {
@@ -717,20 +717,20 @@ func (b *both) step() {
 		got, err := b.got.Add(rate, burst)
 		want, wantErr := b.want.Add(rate, burst)
 		b.same("Add", []any{got, err}, []any{want, wantErr})
-		b.watch.set(want, rate, burst, wantErr)
 	case k < 8:
-		want := b.want.Set(flow, rate, burst)
-		b.same("Set", b.got.Set(flow, rate, burst), want)
-		b.watch.set(flow, rate, burst, want)
-	case k < 24:
+		b.same("Set", b.got.Set(flow, rate, burst), b.want.Set(flow, rate, burst))
+	case k < 20:
 		tag, length := b.rand.Int(), someLength(b.rand)
-		want := b.want.Enqueue(flow, tag, length)
-		b.same("Enqueue", b.got.Enqueue(flow, tag, length), want)
-		b.watch.enqueue(flow, pacer.Packet{Tag: tag, Len: length}, want)
-	case k == 24:
+		b.same("Enqueue", b.got.Enqueue(flow, tag, length), b.want.Enqueue(flow, tag, length))
+	case k == 20:
 		got, err := b.got.Remove(flow)
 		want, wantErr := b.want.Remove(flow)
 		b.same("Remove", []any{tell([]pacer.Batch{{Packets: got}}), err}, []any{tell([]pacer.Batch{{Packets: want}}), wantErr})
+	case k < 25:
+		streams := someStreams(b.rand, b.someFlow)
+		got, err, place := b.got.Feed(streams)
+		want, wantErr, wantPlace := b.want.Feed(streams)
+		b.same(fmt.Sprintf("Feed(%q)", streams), []any{got, err, place}, []any{want, wantErr, wantPlace})
 	default:
 		now, budget := someNow(b.rand, b.want.clock, b.want.Next()), pick(b.rand, 0, 1, 1, 2, 3, 9, 99, 99, math.MaxInt, -1)
 		got, err := b.got.Poll(now, budget)
@@ -741,15 +741,19 @@ func (b *both) step() {
 		}
 	}
 	b.same("Next", b.got.Next(), b.want.Next())
+	counts := b.got.Counts()
+	b.same("Counts", counts, b.want.counts)
+	b.same("Taken", counts.Taken, counts.Sent+counts.Dropped+b.want.waiting())
 }
 
-func TestP5ToP11AgainstThePlainPacer(t *testing.T) {
+func TestP5ToP13AgainstThePlainPacer(t *testing.T) {
 	batches := 0
 	for seed := range int64(600) {
 		r := rand.New(rand.NewSource(seed))
 		quantum := pick(r, 1500, 1501, 3000, 5000, 1000000, 1500+r.Intn(8000))
 		p, _ := pacer.New(quantum)
-		b := &both{t, seed, r, p, newPlainPacer(quantum), newWatch()}
+		plain := newPlainPacer(quantum)
+		b := &both{t, seed, r, p, plain, plain.watch}
 		for range 300 {
 			b.step()
 		}
@@ -758,7 +762,9 @@ func TestP5ToP11AgainstThePlainPacer(t *testing.T) {
 		got, err := b.got.Close()
 		want, wantErr := b.want.Close()
 		b.same("Close", []any{tell(got), err}, []any{tell(want), wantErr})
-		b.step()
+		for range 5 {
+			b.step()
+		}
 	}
 	if batches < 10000 {
 		t.Errorf("only %d batches were released: the numbers are badly picked", batches)

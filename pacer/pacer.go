@@ -37,12 +37,14 @@ type Counts struct{ Taken, Refused, Sent, Dropped, Read, Bad int }
 
 // The limits of DOC.md.
 const (
-	maxFlows  = 8
-	maxQueue  = 8
-	maxPacket = 1500
-	maxBurst  = 1000000
-	maxRate   = 1000000000
-	maxTime   = 4000000000000000000
+	maxFlows   = 8
+	maxQueue   = 8
+	maxPacket  = 1500
+	maxBurst   = 1000000
+	maxRate    = 1000000000
+	maxStreams = 8
+	maxStream  = 400
+	maxTime    = 4000000000000000000
 )
 
 // Pacer holds packets back. Make it by New.
@@ -53,6 +55,7 @@ type Pacer struct {
 	flows   []*flow   // those that live, by rising numbers
 	pending []command // what is not admitted yet, of flows that live
 	armed   *Wheel    // the armed flows wait in it till their instants
+	counts  Counts
 	closing sync.Once
 	closed  bool
 }
@@ -97,6 +100,17 @@ func (p *Pacer) Set(flow int, rate int, burst int) Errno {
 
 // Enqueue lets a packet wait (P5).
 func (p *Pacer) Enqueue(flow int, tag int, length int) Errno {
+	err := p.take(flow, tag, length)
+	if err == OK {
+		p.counts.Taken++
+	} else {
+		p.counts.Refused++
+	}
+	return err
+}
+
+// take is Enqueue, but for the counts.
+func (p *Pacer) take(flow int, tag int, length int) Errno {
 	f, err := p.live(flow)
 	switch {
 	case err != OK:
@@ -121,6 +135,7 @@ func (p *Pacer) Remove(flow int) ([]Packet, Errno) {
 	p.flows = slices.Delete(p.flows, at, at+1)
 	p.pending = slices.DeleteFunc(p.pending, func(c command) bool { return c.flow == f })
 	p.armed.Cancel(f.number)
+	p.counts.Dropped += len(f.packets)
 	return slices.Clone(f.packets), OK
 }
 
@@ -148,9 +163,6 @@ func (p *Pacer) Next() int {
 	return p.armed.Next()
 }
 
-// Feed carries out streams of commands (P12).
-func (p *Pacer) Feed(streams []string) ([]string, Errno, int) { return nil, 0, 0 }
-
 // Close ends it all (P13).
 func (p *Pacer) Close() ([]Batch, Errno) {
 	var dropped []Batch
@@ -163,7 +175,7 @@ func (p *Pacer) Close() ([]Batch, Errno) {
 }
 
 // Counts tells what was done (P13).
-func (p *Pacer) Counts() Counts { return Counts{} }
+func (p *Pacer) Counts() Counts { return p.counts }
 
 // live is the flow of that number.
 func (p *Pacer) live(number int) (*flow, Errno) {
@@ -186,6 +198,7 @@ func (p *Pacer) dropAll() []Batch {
 			out.add(f.number, -1, f.packets)
 		}
 	}
+	p.counts.Dropped += len(out.piece)
 	p.flows, p.pending, p.armed = nil, nil, nil
 	return out.batches
 }

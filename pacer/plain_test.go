@@ -1,13 +1,17 @@
 package pacer_test
 
 import (
+	"fmt"
 	"math/big"
+	"regexp"
 	"slices"
+	"strconv"
+	"strings"
 
 	"pacer/pacer"
 )
 
-// plainFlow and plainPacer do what P5 to P10 and Close say in the plainest way: big numbers, a list of all commands, and a look at every flow for each batch.
+// plainFlow and plainPacer do what P5 to P10, P12 and P13 say in the plainest way: big numbers, a list of all commands, a look at every flow for each batch, and streams that are cut to pieces one behind the other.
 type plainFlow struct {
 	rate, burst int
 	credit      *big.Int
@@ -30,10 +34,12 @@ type plainPacer struct {
 	closed                        bool
 	flows                         map[int]*plainFlow
 	commands                      []plainCommand
+	counts                        pacer.Counts
+	watch                         *watch // is told what was answered OK
 }
 
 func newPlainPacer(quantum int) *plainPacer {
-	return &plainPacer{quantum: quantum, flows: map[int]*plainFlow{}}
+	return &plainPacer{quantum: quantum, flows: map[int]*plainFlow{}, watch: newWatch()}
 }
 
 func parts(bytes int) *big.Int { return new(big.Int).Mul(bigInt(bytes), bigInt(1000000000)) }
@@ -55,6 +61,7 @@ func (p *plainPacer) Add(rate, burst int) (int, pacer.Errno) {
 	p.newest++
 	p.flows[p.newest] = &plainFlow{}
 	p.commands = append(p.commands, plainCommand{'A', p.newest, rate, burst})
+	p.watch.set(p.newest, rate, burst)
 	return p.newest, pacer.OK
 }
 
@@ -69,10 +76,25 @@ func (p *plainPacer) Set(flow, rate, burst int) pacer.Errno {
 		return pacer.ErrRate
 	}
 	p.commands = append(p.commands, plainCommand{'S', flow, rate, burst})
+	p.watch.set(flow, rate, burst)
 	return pacer.OK
 }
 
 func (p *plainPacer) Enqueue(flow, tag, length int) pacer.Errno {
+	err := p.wrongPacket(flow, length)
+	if err != pacer.OK {
+		p.counts.Refused++
+		return err
+	}
+	p.counts.Taken++
+	x := pacer.Packet{Tag: tag, Len: length}
+	p.flows[flow].waiting = append(p.flows[flow].waiting, x)
+	p.commands = append(p.commands, plainCommand{what: 'E', flow: flow})
+	p.watch.enqueue(flow, x)
+	return pacer.OK
+}
+
+func (p *plainPacer) wrongPacket(flow, length int) pacer.Errno {
 	if p.closed {
 		return pacer.ErrClosed
 	}
@@ -86,8 +108,6 @@ func (p *plainPacer) Enqueue(flow, tag, length int) pacer.Errno {
 	if len(f.waiting) >= 8 {
 		return pacer.ErrFull
 	}
-	f.waiting = append(f.waiting, pacer.Packet{Tag: tag, Len: length})
-	p.commands = append(p.commands, plainCommand{what: 'E', flow: flow})
 	return pacer.OK
 }
 
@@ -100,6 +120,7 @@ func (p *plainPacer) Remove(flow int) ([]pacer.Packet, pacer.Errno) {
 		return nil, pacer.ErrNone
 	}
 	delete(p.flows, flow)
+	p.counts.Dropped += len(f.waiting)
 	return f.waiting, pacer.OK
 }
 
@@ -108,10 +129,12 @@ func (p *plainPacer) Close() ([]pacer.Batch, pacer.Errno) {
 		return nil, pacer.ErrClosed
 	}
 	p.closed = true
+	defer clear(p.flows)
 	var out []pacer.Batch
 	for number := 1; number <= p.newest; number++ {
 		if f := p.flows[number]; f != nil && len(f.waiting) > 0 {
 			out = append(out, pacer.Batch{Flow: number, Stamp: -1, Packets: f.waiting})
+			p.counts.Dropped += len(f.waiting)
 		}
 	}
 	return out, pacer.OK
@@ -215,6 +238,7 @@ func (p *plainPacer) Poll(now, budget int) ([]pacer.Batch, pacer.Errno) {
 			f.credit.Sub(f.credit, parts(x.Len))
 		}
 		out = append(out, pacer.Batch{Flow: number, Stamp: f.instant, Packets: slices.Clone(f.waiting[:f.batch])})
+		p.counts.Sent += f.batch
 		f.waiting = f.waiting[f.batch:]
 		f.admitted -= f.batch
 		f.armed = false
@@ -241,4 +265,67 @@ func (p *plainPacer) Next() int {
 		}
 	}
 	return next
+}
+
+var aCommand = regexp.MustCompile(`^(A(\d{1,18},){1}|[SE](\d{1,18},){2}|R)\d{1,18};$`)
+
+// Feed has one stream read and carried out behind the other.
+func (p *plainPacer) Feed(streams []string) ([]string, pacer.Errno, int) {
+	if len(streams) > 8 {
+		return nil, pacer.ErrMany, 0
+	}
+	for i, text := range streams {
+		if len(text) > 400 {
+			return nil, pacer.ErrBig, i
+		}
+	}
+	var out []string
+	for _, text := range streams {
+		told := ""
+		for _, piece := range strings.SplitAfter(text, ";") {
+			if piece != "" {
+				told += p.feedOne(piece) + ";"
+			}
+		}
+		out = append(out, told)
+	}
+	return out, pacer.OK, 0
+}
+
+func (p *plainPacer) feedOne(piece string) string {
+	p.counts.Read++
+	if !aCommand.MatchString(piece) {
+		p.counts.Bad++
+		return "10"
+	}
+	var n [3]int
+	for i, digits := range strings.Split(piece[1:len(piece)-1], ",") {
+		n[i], _ = strconv.Atoi(digits)
+	}
+	switch piece[0] {
+	case 'A':
+		flow, err := p.Add(n[0], n[1])
+		if err == pacer.OK {
+			return fmt.Sprint("0 ", flow)
+		}
+		return fmt.Sprint(int(err))
+	case 'S':
+		return fmt.Sprint(int(p.Set(n[0], n[1], n[2])))
+	case 'E':
+		return fmt.Sprint(int(p.Enqueue(n[0], n[1], n[2])))
+	}
+	dropped, err := p.Remove(n[0])
+	told := fmt.Sprint(int(err))
+	for _, x := range dropped {
+		told += fmt.Sprint(" ", x.Tag)
+	}
+	return told
+}
+
+func (p *plainPacer) waiting() int {
+	n := 0
+	for _, f := range p.flows {
+		n += len(f.waiting)
+	}
+	return n
 }

@@ -71,6 +71,7 @@ func (p *Pacer) release(budget int) []Batch {
 		f.send(instant, p.clock, out)
 		p.arm(f)
 	}
+	p.counts.Sent += len(out.piece)
 	return out.batches
 }
 

@@ -29,17 +29,9 @@ func newWatch() *watch {
 	return &watch{now: map[int]limits{}, queued: map[int][]pacer.Packet{}, stamps: map[int]int{}}
 }
 
-func (w *watch) set(flow, rate, burst int, err pacer.Errno) {
-	if err == pacer.OK {
-		w.now[flow] = limits{rate, burst}
-	}
-}
+func (w *watch) set(flow, rate, burst int) { w.now[flow] = limits{rate, burst} }
 
-func (w *watch) enqueue(flow int, x pacer.Packet, err pacer.Errno) {
-	if err == pacer.OK {
-		w.queued[flow] = append(w.queued[flow], x)
-	}
-}
+func (w *watch) enqueue(flow int, x pacer.Packet) { w.queued[flow] = append(w.queued[flow], x) }
 
 func (w *watch) poll(t *testing.T, now, budget int, batches []pacer.Batch, next int) {
 	t.Helper()
